@@ -1,0 +1,114 @@
+package tests
+
+import (
+	"fmt"
+	"testing"
+
+	"loop.example/changetrail/impl"
+)
+
+// roomy is a tree whose lists have spare room, in which something stands.
+func roomy(t impl.Tree) impl.Tree {
+	names := append(append([]string(nil), t.Names...), "spare")
+	kids := []impl.Tree{}
+	for _, kid := range t.Kids {
+		kids = append(kids, roomy(kid))
+	}
+	kids = append(kids, impl.Tree{Data: "spare"})
+	t.Names, t.Kids = names[:len(names)-1], kids[:len(kids)-1]
+	return t
+}
+
+func spareStands(t impl.Tree) bool {
+	n := len(t.Names)
+	if t.Names[:n+1][n] != "spare" || t.Kids[:n+1][n].Data != "spare" {
+		return false
+	}
+	for _, kid := range t.Kids {
+		if !spareStands(kid) {
+			return false
+		}
+	}
+	return true
+}
+
+// listsOf is all lists of a tree, each with its spare room.
+func listsOf(t impl.Tree) ([][]string, [][]impl.Tree) {
+	names, kids := [][]string{t.Names[:cap(t.Names)]}, [][]impl.Tree{t.Kids[:cap(t.Kids)]}
+	for _, kid := range t.Kids {
+		n, k := listsOf(kid)
+		names, kids = append(names, n...), append(kids, k...)
+	}
+	return names, kids
+}
+
+// scribble writes over all that an answer holds; false, if two of its lists are one memory.
+func scribble(names [][]string, kids [][]impl.Tree) bool {
+	for i := range names {
+		for j := range names[i] {
+			names[i][j] = fmt.Sprint("list ", i)
+		}
+	}
+	for i := range kids {
+		for j := range kids[i] {
+			kids[i][j] = impl.Tree{Mode: 100 + i}
+		}
+	}
+	for i := range names {
+		for j := range names[i] {
+			if names[i][j] != fmt.Sprint("list ", i) {
+				return false
+			}
+		}
+	}
+	for i := range kids {
+		for j := range kids[i] {
+			if kids[i][j].Mode != 100+i {
+				return false
+			}
+		}
+	}
+	return true
+}
+
+func TestAnswersAreNewMemory(t *testing.T) {
+	calls := []impl.Call{
+		call(mkdir, "/b", 1), call(mkdir, "/z", 1), writing("/a/b", 1, "x"), writing("/a/a", 1, "x"), call(truncate, "/c", 3),
+		call(remove, "/c", 0), renaming("/a", "/d/a"), renaming("/c", "/z"), call(chmod, "/a", 2), call(chmod, "/n", 2), call(remove, "/a", 0), call(9, "/a", 0),
+	}
+	for _, c := range calls {
+		x := roomy(example())
+		y, code := impl.TreeDo(x, c)
+		if !scribble(listsOf(y)) || !same(x, example()) || !spareStands(x) {
+			t.Errorf("%+v, code %d: memory is shared", c, code)
+		}
+	}
+	for _, path := range []string{"/", "/a", "/a/b", "/c"} {
+		x := roomy(example())
+		y, _ := impl.TreeAt(x, names(path))
+		list, _ := impl.TreeList(x, names(path))
+		if !scribble(listsOf(y)) || !scribble([][]string{list[:cap(list)]}, nil) || !same(x, example()) || !spareStands(x) {
+			t.Errorf("%s: memory is shared", path)
+		}
+	}
+	y, _ := impl.TreeParse(exampleText)
+	if !scribble(listsOf(y)) {
+		t.Error("memory is shared by what was read")
+	}
+}
+
+func TestPathsStay(t *testing.T) {
+	path := []string{"a", "b", "spare"}
+	to := []string{"d", "x", "spare"}
+	x := example()
+	for kind := 0; kind <= 7; kind++ {
+		impl.TreeDo(x, impl.Call{Kind: kind, Path: path[:2], To: to[:2], At: 1, Data: "x"})
+		impl.TreeDo(x, impl.Call{Kind: kind, Path: path[:1], To: to[:2], At: 1, Data: "x"})
+	}
+	impl.TreeAt(x, path[:2])
+	impl.TreeRead(x, path[:2], 0, 9)
+	impl.TreeList(x, path[:1])
+	if fmt.Sprint(path, to) != "[a b spare] [d x spare]" {
+		t.Error(path, to)
+	}
+}
