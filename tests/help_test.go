@@ -34,9 +34,9 @@ func example() impl.Tree {
 		named{"d", dir(0, named{"e", file(0, "\x00\xff")})})
 }
 
-// names makes a path of a text: "/a/b", or "/" for the root.
+// names makes a path of a text: "/a/b", or "/" or "" for the root.
 func names(text string) []string {
-	if text == "/" {
+	if text == "/" || text == "" {
 		return nil
 	}
 	return strings.Split(strings.TrimPrefix(text, "/"), "/")
@@ -80,4 +80,16 @@ func same(a, b impl.Tree) bool {
 
 func isNothing(t impl.Tree) bool {
 	return same(t, impl.Tree{})
+}
+
+// tamper hands over a text with any one byte left out, changed or put in, and what is ahead of each place.
+func tamper(text string, check func(string)) {
+	for i := range len(text) {
+		check(text[:i])
+		check(text[:i] + text[i+1:])
+		for b := range 256 {
+			check(text[:i] + string([]byte{byte(b)}) + text[i+1:])
+			check(text[:i] + string([]byte{byte(b)}) + text[i:])
+		}
+	}
 }

@@ -2,6 +2,7 @@ package tests
 
 import (
 	"fmt"
+	"slices"
 	"testing"
 
 	"loop.example/changetrail/impl"
@@ -110,5 +111,44 @@ func TestPathsStay(t *testing.T) {
 	impl.TreeList(x, path[:1])
 	if fmt.Sprint(path, to) != "[a b spare] [d x spare]" {
 		t.Error(path, to)
+	}
+}
+
+// pathsOf is all paths of entries, each with its spare room.
+func pathsOf(list []impl.Entry) [][]string {
+	var out [][]string
+	for _, e := range list {
+		out = append(out, e.Path[:cap(e.Path)])
+	}
+	return out
+}
+
+func TestLayersAreNewMemory(t *testing.T) {
+	base, cur := roomy(example()), roomy(other())
+	list := impl.DiffWalk(base, cur)
+	if len(list) == 0 || !scribble(pathsOf(list), nil) || !same(base, example()) || !same(cur, other()) || !spareStands(base) || !spareStands(cur) {
+		t.Error("memory is shared by what differs")
+	}
+	read, ok := impl.LayerRead(layerText)
+	if !ok || !scribble(pathsOf(read), nil) {
+		t.Error("memory is shared by what was read")
+	}
+	list, _ = impl.LayerRead(layerText)
+	for i := range list {
+		list[i].Path = append(list[i].Path, "spare")[:len(list[i].Path)]
+	}
+	list = append(list, gone("/spare"))[:len(list)]
+	x, ok := impl.LayerApply(base, list)
+	if !ok || !scribble(listsOf(x)) || !same(base, example()) || !spareStands(base) || impl.LayerWrite(list) != layerText || text(list[:len(list)+1][len(list)].Path) != "/spare" {
+		t.Error("memory is shared by what was applied")
+	}
+	for _, path := range pathsOf(list) {
+		if !slices.Contains(path, "spare") {
+			t.Error("a path's spare room was written into")
+		}
+	}
+	x, ok = impl.LayerApply(base, nil)
+	if !ok || !scribble(listsOf(x)) || !same(base, example()) || !spareStands(base) {
+		t.Error("memory is shared with nothing applied")
 	}
 }

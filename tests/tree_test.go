@@ -192,14 +192,7 @@ func TestTextsTampered(t *testing.T) {
 		}
 	}
 	lines := strings.SplitAfter(exampleText, "\n")
-	for i := range exampleText {
-		check(exampleText[:i])
-		check(exampleText[:i] + exampleText[i+1:])
-		for b := range 256 {
-			check(exampleText[:i] + string([]byte{byte(b)}) + exampleText[i+1:])
-			check(exampleText[:i] + string([]byte{byte(b)}) + exampleText[i:])
-		}
-	}
+	tamper(exampleText, check)
 	for i := range lines {
 		for j := range lines {
 			swapped := append([]string(nil), lines...)
