@@ -1,4 +1,4 @@
-// Package impl: trees of files, calls, what differs, layers.
+// Package impl: trees of files, calls, what differs, layers, trails.
 package impl
 
 import (

@@ -152,3 +152,75 @@ func TestLayersAreNewMemory(t *testing.T) {
 		t.Error("memory is shared with nothing applied")
 	}
 }
+
+// trailPaths is all paths of marks, each with its spare room.
+func trailPaths(list []impl.Mark) [][]string {
+	var out [][]string
+	for _, m := range list {
+		out = append(out, m.Path[:cap(m.Path)])
+	}
+	return out
+}
+
+// roomyMarks is marks that have spare room behind them and behind each path, in which something stands.
+func roomyMarks(list []impl.Mark) []impl.Mark {
+	var out []impl.Mark
+	for _, m := range append(slices.Clone(list), impl.Mark{Path: names("/spare")}) {
+		path := append(slices.Clone(m.Path), "spare")
+		out = append(out, impl.Mark{Path: path[:len(m.Path)], Sub: m.Sub})
+	}
+	return out[:len(list)]
+}
+
+func marksStand(list, want []impl.Mark) bool {
+	if !sameMarks(list, want) || text(list[:len(list)+1][len(list)].Path) != "/spare" {
+		return false
+	}
+	for _, m := range list {
+		if m.Path[:len(m.Path)+1][len(m.Path)] != "spare" {
+			return false
+		}
+	}
+	return true
+}
+
+func TestTrailsAreNewMemory(t *testing.T) {
+	for _, words := range []string{"", "/a", "/a*", "/a /a/b /c/d/e* /d /e /f", "/a/a/a/a /a/a/a/b /b /c /d /e*"} {
+		for _, word := range []string{"/a", "/a*", "/a/b/c", "/a/a/a*", "/z", "/*", "/A"} {
+			list, m := roomyMarks(marks(words)), roomyMarks(marks(word))
+			got := impl.TrailAdd(list, m[0])
+			whole := scribble(trailPaths(got), nil)
+			clear(got[:cap(got)])
+			if !whole || !marksStand(list, marks(words)) || !marksStand(m, marks(word)) {
+				t.Errorf("%s into %s: memory is shared", word, words)
+			}
+			impl.TrailOk(list)
+			impl.TrailShow(list)
+			if !marksStand(list, marks(words)) {
+				t.Errorf("%s was written into", words)
+			}
+		}
+		list, ok := impl.TrailRead(impl.TrailShow(marks(words)))
+		if !ok || !scribble(trailPaths(list), nil) {
+			t.Errorf("%s: memory is shared by what was read", words)
+		}
+	}
+}
+
+func TestCallMarksAreNewMemory(t *testing.T) {
+	path, to := []string{"a", "b", "spare"}, []string{"d", "x", "spare"}
+	x := roomy(example())
+	for kind := 1; kind <= 6; kind++ {
+		for _, end := range []int{1, 2} {
+			c := impl.Call{Kind: kind, Path: path[:end], To: to[:2], At: 1}
+			// One path twice, as the two marks of a rename must not share it.
+			again := impl.Call{Kind: kind, Path: path[:end], To: path[:end], At: 1}
+			if !scribble(trailPaths(impl.TrailOf(x, c)), nil) || !scribble(trailPaths(impl.TrailOf(x, again)), nil) {
+				t.Errorf("%+v: memory is shared within the answer", c)
+			}
+		}
+	}
+	if fmt.Sprint(path, to) != "[a b spare] [d x spare]" || !same(x, example()) || !spareStands(x) {
+		t.Error("memory is shared with the call or the tree", path, to)
+	}
+}
