@@ -221,6 +221,23 @@ func kidOf(p part, name string) (part, bool) {
 	return nil, false
 }
 
+func isDir(p part) bool {
+	switch p.(type) {
+	case *dirPart:
+		return true
+	}
+	return false
+}
+
+// namesOf is the names right below a part, in the memory that the part has; a file has none.
+func namesOf(p part) []string {
+	switch x := p.(type) {
+	case *dirPart:
+		return x.names
+	}
+	return nil
+}
+
 // partsOf tells a part and all below it with their paths, each ahead of what is within it.
 func partsOf(p part) iter.Seq2[[]string, part] {
 	return func(yield func([]string, part) bool) {
@@ -258,8 +275,8 @@ func linesOf(p part) iter.Seq[string] {
 func readRoot(text string) (*dirPart, bool) {
 	first, rest, _ := strings.Cut(text, "\n")
 	path, p, ok := readLine(first)
-	root, isDir := p.(*dirPart)
-	if !ok || !isDir || len(path) > 0 {
+	root, rooted := p.(*dirPart)
+	if !ok || !rooted || len(path) > 0 {
 		return nil, false
 	}
 	count := 0

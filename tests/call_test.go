@@ -87,15 +87,16 @@ func TestWriteOfNothing(t *testing.T) {
 	expectText(t, "a new file, behind its end", x, writing("/g", 3, ""), "file /f 2 6162\nfile /g 0 000000\n")
 }
 
-// Each call here would have codes further on in the order, too.
-func TestCodesInOrder(t *testing.T) {
-	x := example()
+type refused struct {
+	what string
+	c    impl.Call
+	code int
+}
+
+// Calls that the example refuses; most would have codes further on in the order, too.
+func refusedCalls() []refused {
 	long := strings.Repeat("x", 25)
-	for _, k := range []struct {
-		what string
-		c    impl.Call
-		code int
-	}{
+	return []refused{
 		{"no call, no parent", call(mkdir, "/x/y", 8), 2},
 		{"no call, parent a file", call(chmod, "/c/y", -1), 2},
 		{"no call, too much", writing("/n", 25, long), 2},
@@ -132,8 +133,12 @@ func TestCodesInOrder(t *testing.T) {
 		{"remove nothing", call(remove, "/n", 0), 3},
 		{"remove a directory that has something", call(remove, "/d", 0), 5},
 		{"chmod nothing", call(chmod, "/n", 0), 3},
-	} {
-		expect(t, k.what, x, k.c, k.code)
+	}
+}
+
+func TestCodesInOrder(t *testing.T) {
+	for _, k := range refusedCalls() {
+		expect(t, k.what, example(), k.c, k.code)
 	}
 	full := deep(2, named{"e", dir(0, named{"f", dir(0)})})
 	full.Names, full.Kids = append(full.Names, "m"), append(full.Kids, dir(0, named{"n", dir(0)}))

@@ -224,3 +224,38 @@ func TestCallMarksAreNewMemory(t *testing.T) {
 		t.Error("memory is shared with the call or the tree", path, to)
 	}
 }
+
+func TestLeadsAreNewMemory(t *testing.T) {
+	for _, words := range []string{"", "/a", "/a /a/b /c /c/f* /d*", "/*", "/c* /d", "/a* /c /d/e", "/a/b /c/f/e /d/e*"} {
+		base, cur, list := roomy(example()), roomy(other()), roomyMarks(marks(words))
+		got, _ := impl.TrailDiff(base, cur, list)
+		whole := scribble(pathsOf(got), nil)
+		clear(got[:cap(got)])
+		impl.TrailCovers(base, cur, list)
+		impl.TrailBelow(base, cur, list)
+		if !whole || !same(base, example()) || !same(cur, other()) || !spareStands(base) || !spareStands(cur) || !marksStand(list, marks(words)) {
+			t.Errorf("%s: memory is shared", words)
+		}
+	}
+}
+
+func TestTouchesAreNewMemory(t *testing.T) {
+	path, to := []string{"a", "b", "spare"}, []string{"d", "x", "spare"}
+	for _, words := range []string{"", "/a", "/b", "/a* /d*", "/*", "/a /b /c /d /e /f", "/a/a /a/b/c /b /c /e /f"} {
+		for kind := 0; kind <= 7; kind++ {
+			for _, end := range []int{1, 2} {
+				x, list := roomy(example()), roomyMarks(marks(words))
+				y, got, _ := impl.TrailDo(x, list, impl.Call{Kind: kind, Path: path[:end], To: to[:2], At: 1, Data: "x"})
+				names, kids := listsOf(y)
+				whole := scribble(append(names, trailPaths(got)...), kids)
+				clear(got[:cap(got)])
+				if !whole || !same(x, example()) || !spareStands(x) || !marksStand(list, marks(words)) {
+					t.Errorf("%s, kind %d: memory is shared", words, kind)
+				}
+			}
+		}
+	}
+	if fmt.Sprint(path, to) != "[a b spare] [d x spare]" {
+		t.Error("memory is shared with the call", path, to)
+	}
+}

@@ -36,13 +36,17 @@ func sameMarks(a, b []impl.Mark) bool {
 	})
 }
 
-// The calls that made the other tree of the example, and the trail that they leave.
+// The calls that made the other tree of the example.
+func exampleCalls() []impl.Call {
+	return []impl.Call{
+		writing("/a/b", 2, "!"), call(remove, "/c", 0), call(mkdir, "/c", 7), renaming("/d", "/c/f"), call(chmod, "/a", 4),
+	}
+}
+
 func TestExampleTrail(t *testing.T) {
 	x := example()
 	var list []impl.Mark
-	for _, c := range []impl.Call{
-		writing("/a/b", 2, "!"), call(remove, "/c", 0), call(mkdir, "/c", 7), renaming("/d", "/c/f"), call(chmod, "/a", 4),
-	} {
+	for _, c := range exampleCalls() {
 		for _, m := range impl.TrailOf(x, c) {
 			list = impl.TrailAdd(list, m)
 		}
@@ -315,12 +319,17 @@ func TestTrailOf(t *testing.T) {
 	}
 }
 
-func TestTrailOfNoCall(t *testing.T) {
-	for _, c := range []impl.Call{
+// Calls that are none.
+func noCalls() []impl.Call {
+	return []impl.Call{
 		{}, {Path: names("/a")}, call(7, "/a", 0), call(-1, "/a", 0), call(mkdir, "/", 0), call(remove, "", 0), call(chmod, "/a", 8), call(mkdir, "/n", -1),
 		writing("/c", 25, ""), writing("/c", -1, ""), call(truncate, "/c", 25), call(remove, "/A", 0), call(remove, "/abcdef", 0), call(remove, "/a/b/c/d/e", 0), call(remove, "/a/", 0),
 		renaming("/", "/n"), renaming("/a", "/"), renaming("/a", "/a/b/c/d/e"), renaming("/a/b/c/d/e", "/a"), renaming("/a", "/N"), renaming("/A", "/n"), {Kind: rename, Path: names("/a")},
-	} {
+	}
+}
+
+func TestTrailOfNoCall(t *testing.T) {
+	for _, c := range noCalls() {
 		if got := impl.TrailOf(example(), c); len(got) != 0 {
 			t.Errorf("%+v: %v", c, got)
 		}
