@@ -259,3 +259,30 @@ func TestTouchesAreNewMemory(t *testing.T) {
 		t.Error("memory is shared with the call", path, to)
 	}
 }
+
+func TestDisksAreNewMemory(t *testing.T) {
+	writes := []impl.Raw{{At: 0, Data: "a"}, {At: -1, Data: "b"}, {At: 193, Data: "c"}, {At: 0, Data: ""}, {At: 5, Data: "spare"}}
+	for _, count := range []int{0, 1, 4} {
+		for _, cut := range []int{-1, 0, 1, 3, 4, 99} {
+			room := append(used().Blocks, "spare")
+			d, list := impl.Disk{Blocks: room[:impl.DiskBlocks]}, slices.Clone(writes)
+			got := impl.DiskWrite(d, list[:count], cut)
+			whole := impl.DiskOk(got) && impl.DiskOk(d)
+			clear(got.Blocks[:cap(got.Blocks)])
+			if !whole || !sameDisk(d, used()) || room[impl.DiskBlocks] != "spare" || !slices.Equal(list, writes) {
+				t.Errorf("%d writes, cut %d: memory is shared", count, cut)
+			}
+		}
+	}
+}
+
+func TestBadDisksStay(t *testing.T) {
+	writes := []impl.Raw{{At: 0, Data: "a"}, {At: 7, Data: "b"}}
+	for what, d := range badDisks() {
+		was, list := slices.Clone(d.Blocks), slices.Clone(writes)
+		got := impl.DiskWrite(d, list, 2)
+		if cap(got.Blocks) != 0 || !slices.Equal(d.Blocks, was) || !slices.Equal(list, writes) {
+			t.Errorf("%s: memory is shared", what)
+		}
+	}
+}
