@@ -286,3 +286,75 @@ func TestBadDisksStay(t *testing.T) {
 		}
 	}
 }
+
+// roomyStore is a store whose groups have spare room, in which something stands.
+func roomyStore(s impl.Store) impl.Store {
+	s.Groups = append(slices.Clone(s.Groups), "spare", "spare")[:len(s.Groups)]
+	return s
+}
+
+func storeStands(s, want impl.Store) bool {
+	n := len(s.Groups)
+	return sameStore(s, want) && slices.Equal(s.Groups[n:n+2], []string{"spare", "spare"})
+}
+
+func TestStoresAreNewMemory(t *testing.T) {
+	stores := append(someStores(), storeOf(5, "t", bytesOf(600), ""))
+	for _, bad := range badStores() {
+		stores = append(stores, bad)
+	}
+	for i, want := range stores {
+		for _, size := range []int{0, 1, 100, 600, 601, 5761} {
+			for _, save := range []bool{false, true} {
+				s := roomyStore(want)
+				list, next, _ := step(s, save, bytesOf(size))
+				again, once, _ := step(s, save, bytesOf(size))
+				kept := append([]impl.Raw(nil), again...)
+				clear(list[:cap(list)])
+				clear(next.Groups[:cap(next.Groups)])
+				if !storeStands(s, want) || !slices.Equal(again, kept) || slices.Contains(once.Groups, "spare") {
+					t.Errorf("store %d, save %v, %d bytes: memory is shared", i, save, size)
+				}
+			}
+		}
+	}
+}
+
+func TestOpenedStoresAreNewMemory(t *testing.T) {
+	for i, want := range someStores() {
+		room := append(diskOf(want).Blocks, "spare")
+		d := impl.Disk{Blocks: room[:impl.DiskBlocks]}
+		s, _ := impl.StoreOpen(d)
+		clear(s.Groups[:cap(s.Groups)])
+		again, ok := impl.StoreOpen(d)
+		if !ok || !sameStore(again, want) || !sameDisk(d, diskOf(want)) || room[impl.DiskBlocks] != "spare" {
+			t.Errorf("store %d: memory is shared", i)
+		}
+		list, _ := impl.StoreNew(want.Text)
+		clear(list[:cap(list)])
+		if again, ok := impl.StoreNew(want.Text); !ok || !slices.Equal(again, plainSave(1, want.Text)) {
+			t.Errorf("text %d: memory is shared", i)
+		}
+	}
+}
+
+func TestPlaysAreNewMemory(t *testing.T) {
+	plays := [][]impl.Step{
+		nil, {adding("", -1)}, {adding("", 0)}, {adding("x", 1)}, {adding("x", 2)}, {adding(bytesOf(601), -1)}, {adding(bytesOf(601), 3)},
+		{saving("text", -1)}, {saving("text", 0)}, {saving("text", 1)}, {saving("text", 2)}, {saving(bytesOf(5761), 2)}, {adding("x", -1), saving("text", 1), adding("", 0), adding("y", -1)},
+	}
+	stores := append(someStores(), impl.Store{Gen: 100000})
+	for i, store := range stores {
+		for j, steps := range plays {
+			blocks := append(diskOf(store).Blocks, "spare")
+			d := impl.Disk{Blocks: blocks[:impl.DiskBlocks]}
+			list := append(slices.Clone(steps), impl.Step{Text: "spare"})
+			got, s, _ := impl.StorePlay(d, list[:len(steps)])
+			clear(got.Blocks[:cap(got.Blocks)])
+			clear(s.Groups[:cap(s.Groups)])
+			if !sameDisk(d, diskOf(store)) || blocks[impl.DiskBlocks] != "spare" || !slices.Equal(list[:len(steps)], steps) || list[len(steps)].Text != "spare" {
+				t.Errorf("store %d, steps %d: memory is shared", i, j)
+			}
+		}
+	}
+}
