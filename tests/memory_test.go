@@ -358,3 +358,181 @@ func TestPlaysAreNewMemory(t *testing.T) {
 		}
 	}
 }
+
+// roomyRows is rows that have spare room behind them and behind each path, in which something stands.
+func roomyRows(rows []impl.Row) []impl.Row {
+	var out []impl.Row
+	for _, r := range append(slices.Clone(rows), impl.Row{Path: names("/spare")}) {
+		r.Path = append(slices.Clone(r.Path), "spare")[:len(r.Path)]
+		out = append(out, r)
+	}
+	return out[:len(rows)]
+}
+
+func rowsStand(rows, want []impl.Row) bool {
+	if !sameRows(rows, want) || text(rows[:len(rows)+1][len(rows)].Path) != "/spare" {
+		return false
+	}
+	for _, r := range rows {
+		if r.Path[:len(r.Path)+1][len(r.Path)] != "spare" {
+			return false
+		}
+	}
+	return true
+}
+
+func rowPaths(rows []impl.Row) [][]string {
+	var out [][]string
+	for _, r := range rows {
+		out = append(out, r.Path[:cap(r.Path)])
+	}
+	return out
+}
+
+func TestTablesAreNewMemory(t *testing.T) {
+	for what, want := range okTrees() {
+		x := roomy(want)
+		rows := impl.TableMake(x)
+		impl.TableId(x)
+		whole := scribble(rowPaths(rows), nil)
+		clear(rows[:cap(rows)])
+		if !whole || !same(x, want) || !spareStands(x) || !sameRows(impl.TableMake(x), modelOf(want).rows()) {
+			t.Errorf("%s: memory is shared by the rows", what)
+		}
+	}
+	tables := tampered()
+	for what, x := range okTrees() {
+		tables[what] = modelOf(x).rows()
+	}
+	for what, want := range tables {
+		rows := roomyRows(want)
+		path := []string{"a", "b", "spare"}
+		x, _ := impl.TableTree(rows)
+		whole := scribble(listsOf(x))
+		for end := range 3 {
+			list := impl.TableNames(rows, path[:end])
+			whole = whole && scribble([][]string{list[:cap(list)]}, nil)
+			impl.TableFind(rows, path[:end])
+			impl.TableUnder(rows, path[:end])
+		}
+		if !whole || !rowsStand(rows, want) || fmt.Sprint(path) != "[a b spare]" {
+			t.Errorf("%s: memory is shared", what)
+		}
+	}
+}
+
+// roomyPages is pages that have spare room behind them and behind their names, in which something stands.
+func roomyPages(p impl.Pages) impl.Pages {
+	p.Pages = append(slices.Clone(p.Pages), impl.Page{Data: "spare"}, impl.Page{Data: "spare"})[:len(p.Pages)]
+	p.Names = append(slices.Clone(p.Names), impl.PageName{Name: "spare"}, impl.PageName{Name: "spare"})[:len(p.Names)]
+	return p
+}
+
+func pagesStand(p, want impl.Pages) bool {
+	pages, names := p.Pages[len(p.Pages):len(p.Pages)+2], p.Names[len(p.Names):len(p.Names)+2]
+	return samePages(p, want) && pages[0].Data == "spare" && pages[1].Data == "spare" && names[0].Name == "spare" && names[1].Name == "spare"
+}
+
+func clearPages(p impl.Pages) {
+	clear(p.Pages[:cap(p.Pages)])
+	clear(p.Names[:cap(p.Names)])
+}
+
+func TestPagesAreNewMemory(t *testing.T) {
+	all := badPages()
+	all["some"], _ = somePages()
+	all["none"] = newDesk().pages()
+	all["full"], _ = full(t)
+	for what, want := range all {
+		p := roomyPages(want)
+		for _, name := range []string{"a", "b", "c", "d", "0", "n07", "A"} {
+			for _, size := range []int{0, 1, 41, 3000, 3001} {
+				q, _ := impl.PagesPut(p, name, bytesOf(size))
+				r, _ := impl.PagesPut(p, name, bytesOf(size))
+				clearPages(q)
+				clearPages(r)
+			}
+			q, _ := impl.PagesDrop(p, name)
+			clearPages(q)
+			impl.PagesGet(p, name)
+		}
+		impl.PagesOk(p)
+		impl.PagesFree(p)
+		impl.PagesWrite(p)
+		if !pagesStand(p, want) {
+			t.Errorf("%s: memory is shared", what)
+		}
+	}
+	for _, text := range []string{"end\n", "a 0\n\nend\n", "a 4\nend\n\nend\n"} {
+		clearPages(impl.PagesNew())
+		p, _ := impl.PagesRead(text)
+		clearPages(p)
+		if !checkRead(t, text) || !samePages(impl.PagesNew(), newDesk().pages()) {
+			t.Errorf("%q: memory is shared", text)
+		}
+	}
+}
+
+// roomyNodes is nodes that have spare room behind them and behind each path, in which something stands.
+func roomyNodes(n impl.Nodes) impl.Nodes {
+	var list []impl.NodeOf
+	for _, x := range append(slices.Clone(n.List), impl.NodeOf{Path: names("/spare")}) {
+		list = append(list, impl.NodeOf{Id: x.Id, Path: append(slices.Clone(x.Path), "spare")[:len(x.Path)]})
+	}
+	return impl.Nodes{Next: n.Next, List: list[:len(n.List)]}
+}
+
+func nodesStand(n, want impl.Nodes) bool {
+	if !sameNodes(n, want) || text(n.List[:len(n.List)+1][len(n.List)].Path) != "/spare" {
+		return false
+	}
+	for _, x := range n.List {
+		if x.Path[:len(x.Path)+1][len(x.Path)] != "spare" {
+			return false
+		}
+	}
+	return true
+}
+
+// scribbleNodes is false, if two paths are one memory.
+func scribbleNodes(n impl.Nodes) bool {
+	var paths [][]string
+	for _, x := range n.List {
+		paths = append(paths, x.Path[:cap(x.Path)])
+	}
+	whole := scribble(paths, nil)
+	clear(n.List[:cap(n.List)])
+	return whole
+}
+
+func TestNodesAreNewMemory(t *testing.T) {
+	x := roomy(example())
+	for what, want := range map[string]impl.Nodes{
+		"well": nodesOf("9: 8 /a, 2 /a/b, 3 /c, 7 /d, 5 /d/e"), "no ids left": nodesOf("10000: 8 /a, 2 /a/b, 3 /c, 7 /d, 5 /d/e"),
+		"of another tree": nodesOf("9: 8 /a, 3 /c"), "not well": nodesOf("5: 8 /a, 3 /c"), "none": nodesOf("1:"),
+	} {
+		n := roomyNodes(want)
+		path, to := []string{"a", "b", "spare"}, []string{"d", "x", "spare"}
+		whole := scribbleNodes(impl.NodesStart(x))
+		for kind := 0; kind <= 7; kind++ {
+			for end := range 3 {
+				m, _ := impl.NodesDo(n, x, impl.Call{Kind: kind, Path: path[:end], To: to[:2], At: 1, Data: "x"})
+				whole = whole && scribbleNodes(m)
+				impl.NodesId(n, path[:end])
+			}
+		}
+		m, _ := impl.NodesDo(n, x, call(mkdir, "/n", 0))
+		whole = whole && scribbleNodes(m)
+		got, _ := impl.NodesPath(n, 2)
+		whole = whole && scribble([][]string{got[:cap(got)]}, nil)
+		impl.NodesOk(n, x)
+		impl.NodesWrite(n)
+		if !whole || !nodesStand(n, want) || fmt.Sprint(path, to) != "[a b spare] [d x spare]" || !same(x, example()) || !spareStands(x) {
+			t.Errorf("%s: memory is shared", what)
+		}
+	}
+	m, ok := impl.NodesRead("next 9\n8 /a\n2 /a/b\n5 /d/e\n")
+	if !ok || !scribbleNodes(m) {
+		t.Error("memory is shared by what was read")
+	}
+}
