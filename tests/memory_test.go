@@ -536,3 +536,187 @@ func TestNodesAreNewMemory(t *testing.T) {
 		t.Error("memory is shared by what was read")
 	}
 }
+
+// roomyUpper is an upper whose lists, and each path, have spare room, in which something stands.
+func roomyUpper(u impl.Upper) impl.Upper {
+	var out impl.Upper
+	for _, path := range append(slices.Clone(u.Gone), names("/spare")) {
+		out.Gone = append(out.Gone, append(slices.Clone(path), "spare")[:len(path)])
+	}
+	for _, e := range append(slices.Clone(u.Puts), newFile("/spare", 0, "")) {
+		e.Path = append(slices.Clone(e.Path), "spare")[:len(e.Path)]
+		out.Puts = append(out.Puts, e)
+	}
+	return impl.Upper{Gone: out.Gone[:len(u.Gone)], Puts: out.Puts[:len(u.Puts)]}
+}
+
+func upperStands(u, want impl.Upper) bool {
+	gone, puts := u.Gone[:len(u.Gone)+1], u.Puts[:len(u.Puts)+1]
+	if !sameUpper(u, want) || text(gone[len(u.Gone)]) != "/spare" || text(puts[len(u.Puts)].Path) != "/spare" {
+		return false
+	}
+	paths := slices.Clone(gone)
+	for _, e := range puts {
+		paths = append(paths, e.Path)
+	}
+	return !slices.ContainsFunc(paths, func(path []string) bool { return path[:len(path)+1][len(path)] != "spare" })
+}
+
+// upperPaths is all paths of an upper, each with its spare room.
+func upperPaths(u impl.Upper) [][]string {
+	out := pathsOf(u.Puts)
+	for _, path := range u.Gone {
+		out = append(out, path[:cap(path)])
+	}
+	return out
+}
+
+// scribbleUpper is false, if two paths are one memory.
+func scribbleUpper(u impl.Upper) bool {
+	whole := scribble(upperPaths(u), nil)
+	clear(u.Gone[:cap(u.Gone)])
+	clear(u.Puts[:cap(u.Puts)])
+	return whole
+}
+
+func TestUppersAreNewMemory(t *testing.T) {
+	tables := tampered()
+	tables["the example"] = impl.TableMake(example())
+	uppers := wrongUppers()
+	uppers["nothing"] = impl.Upper{}
+	uppers["other"] = modelOf(example()).upper(modelOf(other()))
+	uppers["the root"] = over("", newDir("/", 3))
+	for which, table := range tables {
+		for what, want := range uppers {
+			// Of rows that are none two uppers are enough.
+			if len(want.Gone) > 100 || len(want.Puts) > 100 || which != "the example" && what != "other" && what != "nothing" {
+				continue
+			}
+			rows, u := roomyRows(table), roomyUpper(want)
+			path, to := []string{"a", "b", "spare"}, []string{"d", "x", "spare"}
+			x, _ := impl.UpperTree(rows, u)
+			whole := scribble(listsOf(x))
+			for end := range 3 {
+				y, _ := impl.UpperLook(rows, u, path[:end])
+				list := impl.UpperNames(rows, u, path[:end])
+				whole = whole && scribble(listsOf(y)) && scribble([][]string{list[:cap(list)]}, nil)
+				for kind := 0; kind <= 7; kind++ {
+					v, _ := impl.UpperDo(rows, u, impl.Call{Kind: kind, Path: path[:end], To: to[:2], At: 1, Data: "x"})
+					whole = whole && scribbleUpper(v)
+				}
+			}
+			impl.UpperOk(rows, u)
+			impl.UpperWrite(u)
+			if !whole || !rowsStand(rows, table) || !upperStands(u, want) || fmt.Sprint(path, to) != "[a b spare] [d x spare]" {
+				t.Errorf("%s, %s: memory is shared", which, what)
+			}
+		}
+		rows, x := roomyRows(table), roomy(other())
+		u, _ := impl.UpperOf(rows, x)
+		if !scribbleUpper(u) || !rowsStand(rows, table) || !same(x, other()) || !spareStands(x) {
+			t.Errorf("%s: memory is shared by the upper", which)
+		}
+	}
+	u, ok := impl.UpperRead("hide /a\nhide /c/d\ndir / 3\nfile /a 0 21\ndir /d/e/f 7\n")
+	if !ok || !scribbleUpper(u) {
+		t.Error("memory is shared by what was read")
+	}
+}
+
+// roomyState is a state of which all lists have spare room, in which something stands.
+func roomyState(s impl.State) impl.State {
+	layers := append(slices.Clone(s.Layers), "spare")[:len(s.Layers)]
+	return impl.State{First: roomy(s.First), Rows: roomyRows(s.Rows), Upper: roomyUpper(s.Upper), Trail: roomyMarks(s.Trail), Nodes: roomyNodes(s.Nodes), Layers: layers}
+}
+
+func stateStands(s, want impl.State) bool {
+	layers := s.Layers[:len(s.Layers)+1]
+	return same(s.First, want.First) && spareStands(s.First) && rowsStand(s.Rows, want.Rows) && upperStands(s.Upper, want.Upper) && marksStand(s.Trail, want.Trail) && nodesStand(s.Nodes, want.Nodes) && slices.Equal(s.Layers, want.Layers) && layers[len(s.Layers)] == "spare"
+}
+
+// scribbleState is false, if two lists are one memory.
+func scribbleState(s impl.State) bool {
+	lists, kids := listsOf(s.First)
+	lists = slices.Concat(lists, rowPaths(s.Rows), upperPaths(s.Upper), trailPaths(s.Trail), [][]string{s.Layers[:cap(s.Layers)]})
+	for _, n := range s.Nodes.List {
+		lists = append(lists, n.Path[:cap(n.Path)])
+	}
+	whole := scribble(lists, kids)
+	clear(s.Rows[:cap(s.Rows)])
+	clear(s.Upper.Gone[:cap(s.Upper.Gone)])
+	clear(s.Upper.Puts[:cap(s.Upper.Puts)])
+	clear(s.Trail[:cap(s.Trail)])
+	clear(s.Nodes.List[:cap(s.Nodes.List)])
+	return whole
+}
+
+func TestStatesAreNewMemory(t *testing.T) {
+	all := badStates(t)
+	_, p := someState(t)
+	all["some"] = p.state()
+	all["new"] = storyOf(modelOf(example())).state()
+	p.ids.next = 10000
+	all["no ids left"] = p.state()
+	p.layers = append(slices.Clone(p.layers), "", "", "", "")
+	all["six layers"] = p.state()
+	all["nothing over it"] = storyOf(p.seen).state()
+	for what, want := range all {
+		// A tree may be within itself, and could not be copied then.
+		if !impl.TreeOk(want.First) || len(want.Layers) > 100 {
+			continue
+		}
+		s := roomyState(want)
+		path, to := []string{"a", "b", "spare"}, []string{"d", "x", "spare"}
+		whole := true
+		for kind := 0; kind <= 7; kind++ {
+			for end := range 3 {
+				next, _ := impl.StateDo(s, impl.Call{Kind: kind, Path: path[:end], To: to[:1], At: 1, Data: "x"})
+				whole = whole && scribbleState(next)
+			}
+		}
+		for _, c := range []impl.Call{call(mkdir, "/m", 0), renaming("/a", "/n/a"), renaming("/f", "/a/f"), call(chmod, "/c", 3)} {
+			next, _ := impl.StateDo(s, c)
+			whole = whole && scribbleState(next)
+		}
+		next, _, _ := impl.StateCommit(s)
+		pages, _ := impl.StateSave(s)
+		clearPages(pages)
+		impl.StateOk(s)
+		if !whole || !scribbleState(next) || !stateStands(s, want) || fmt.Sprint(path, to) != "[a b spare] [d x spare]" {
+			t.Errorf("%s: memory is shared", what)
+		}
+	}
+}
+
+func TestNewAndLoadedStatesAreNewMemory(t *testing.T) {
+	for what, want := range okTrees() {
+		x := roomy(want)
+		s, ok := impl.StateNew(x)
+		if !ok || !scribbleState(s) || !same(x, want) || !spareStands(x) {
+			t.Errorf("%s: memory is shared", what)
+		}
+	}
+	_, p := someState(t)
+	d, _ := p.desk()
+	pages := roomyPages(d.pages())
+	s, ok := impl.StateLoad(pages)
+	if !ok || !scribbleState(s) || !pagesStand(pages, d.pages()) {
+		t.Error("memory is shared by what was loaded")
+	}
+	for what, want := range badPages() {
+		pages := roomyPages(want)
+		impl.StateLoad(pages)
+		if !pagesStand(pages, want) {
+			t.Errorf("%s: memory is shared", what)
+		}
+	}
+	c, ok := impl.CallParse("rename /a/b /c/d")
+	if !ok || !scribble([][]string{c.Path[:cap(c.Path)], c.To[:cap(c.To)]}, nil) {
+		t.Error("memory is shared by a call that was read")
+	}
+	path, to := []string{"a", "b", "spare"}, []string{"d", "x", "spare"}
+	impl.CallText(impl.Call{Kind: rename, Path: path[:2], To: to[:2]})
+	if fmt.Sprint(path, to) != "[a b spare] [d x spare]" {
+		t.Error("memory is shared with a call that was written", path, to)
+	}
+}
