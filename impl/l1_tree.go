@@ -1,4 +1,4 @@
-// Package impl: trees of files, calls, what differs, layers, trails.
+// Package impl: trees of files, calls, layers and trails; disks and stores; what is kept; and the system over all of them.
 package impl
 
 import (

@@ -720,3 +720,130 @@ func TestNewAndLoadedStatesAreNewMemory(t *testing.T) {
 		t.Error("memory is shared with a call that was written", path, to)
 	}
 }
+
+// roomySys is a system of which all lists have spare room, in which something stands.
+func roomySys(s impl.Sys) impl.Sys {
+	blocks := append(slices.Clone(s.Disk.Blocks), "spare")[:len(s.Disk.Blocks)]
+	return impl.Sys{Disk: impl.Disk{Blocks: blocks}, Store: roomyStore(s.Store), State: roomyState(s.State), Up: s.Up}
+}
+
+func sysStands(s, want impl.Sys) bool {
+	blocks := s.Disk.Blocks[:len(s.Disk.Blocks)+1]
+	return s.Up == want.Up && sameDisk(s.Disk, want.Disk) && blocks[len(s.Disk.Blocks)] == "spare" && storeStands(s.Store, want.Store) && stateStands(s.State, want.State)
+}
+
+// scribbleSys is false, if two lists are one memory.
+func scribbleSys(s impl.Sys) bool {
+	whole := scribble([][]string{s.Disk.Blocks[:cap(s.Disk.Blocks)], s.Store.Groups[:cap(s.Store.Groups)], s.State.Layers[:cap(s.State.Layers)]}, nil)
+	return scribbleState(s.State) && whole
+}
+
+// someSyses is systems of any kind, most of which are ok.
+func someSyses(t *testing.T) map[string]impl.Sys {
+	s, p := someSys(t)
+	down, _ := p.do(cutAt(1, committing()))
+	full := p
+	for full.store.Next < 12 {
+		full, _ = full.do(committing())
+	}
+	less, more := p.sys(), p.sys()
+	less.Store.Groups = less.Store.Groups[:2]
+	more.State.Trail = append(more.State.Trail, at("/zz"))
+	return map[string]impl.Sys{
+		"some": s, "down": down.sys(), "a full log": full.sys(), "new": plantAt(1, storyOf(modelOf(example()))).sys(), "no room": plantAt(1, leaving(t, 0)).sys(), "the last": plantAt(99999, storyOf(modelOf(wide(30)))).sys(),
+		"nothing": {}, "another store": less, "another state": more, "down, and knows all": {Disk: s.Disk, Store: s.Store, State: p.story.state()},
+	}
+}
+
+func TestSystemsAreNewMemory(t *testing.T) {
+	for what, want := range someSyses(t) {
+		s := roomySys(want)
+		path, to := []string{"a", "b", "spare"}, []string{"d", "x", "spare"}
+		whole := true
+		var list []impl.SysEvent
+		for kind := 0; kind <= 4; kind++ {
+			for call := 0; call <= 7; call++ {
+				c := impl.Call{Kind: call, Path: path[:1+call%2], To: to[:1], At: 1, Data: "x"}
+				list = append(list, impl.SysEvent{Kind: kind, Call: c, Cut: call%4 - 1})
+			}
+		}
+		list = append(list, impl.SysEvent{Kind: 99, Cut: 99})
+		for _, e := range list {
+			next, _ := impl.SysDo(s, e)
+			whole = whole && scribbleSys(next)
+		}
+		for _, count := range []int{0, 1, 9, len(list) - 1} {
+			next, codes := impl.SysPlay(s, list[:count])
+			whole = whole && scribbleSys(next)
+			clear(codes[:cap(codes)])
+		}
+		open, _ := impl.SysOpen(s.Disk)
+		impl.SysOk(s)
+		impl.SysRoom(s.State)
+		if last := list[len(list)-1]; last.Kind != 99 || last.Cut != 99 || list[9].Call.Kind != 1 || list[9].Cut != 0 {
+			t.Errorf("%s: memory is shared with what happens: %v", what, list)
+		}
+		if !whole || !scribbleSys(open) || !sysStands(s, want) || fmt.Sprint(path, to) != "[a b spare] [d x spare]" {
+			t.Errorf("%s: memory is shared", what)
+		}
+	}
+	for what, want := range okTrees() {
+		x := roomy(want)
+		s, ok := impl.SysNew(x)
+		if !ok || !scribbleSys(s) || !same(x, want) || !spareStands(x) {
+			t.Errorf("%s: memory is shared by a new system", what)
+		}
+	}
+}
+
+func TestSightsAreNewMemory(t *testing.T) {
+	for what, want := range someSyses(t) {
+		s := roomySys(want)
+		whole := true
+		for range 2 {
+			for _, ask := range []func(impl.Sys) (impl.Tree, bool){impl.SysSee, impl.SysSealed, impl.SysFold} {
+				x, ok := ask(s)
+				whole = whole && scribble(listsOf(x)) && ok == (want.Up && impl.SysOk(want))
+			}
+			path := []string{"a", "b", "spare"}
+			for end := range 3 {
+				list, _ := impl.SysList(s, path[:end])
+				whole = whole && scribble([][]string{list[:cap(list)]}, nil)
+				impl.SysRead(s, path[:end], 0, 9)
+				impl.SysHandle(s, path[:end])
+			}
+			impl.SysReadBy(s, 2, 0, 9)
+			impl.SysLayer(s)
+			impl.SysWalk(s)
+			impl.SysSafe(s)
+			impl.SysBoard(s)
+			for _, line := range append(slices.Clone(sessionLines), "sealed", "list /", "x", "handle /") {
+				next, _ := impl.FrontDo(s, line)
+				whole = whole && scribbleSys(next)
+			}
+			if fmt.Sprint(path) != "[a b spare]" {
+				t.Errorf("%s: a path was written into: %v", what, path)
+			}
+		}
+		if !whole || !sysStands(s, want) {
+			t.Errorf("%s: memory is shared", what)
+		}
+	}
+	for _, line := range append(slices.Clone(sessionLines), "read /a/b 0 9", "cut 1 rename /a/b /c/d", "readby 1 2 3", "") {
+		f, _ := impl.FrontParse(line)
+		again, _ := impl.FrontParse(line)
+		c := f.Event.Call
+		if !scribble([][]string{f.Path[:cap(f.Path)], c.Path[:cap(c.Path)], c.To[:cap(c.To)]}, nil) {
+			t.Errorf("%q: memory is shared", line)
+		}
+		clear(f.Nums[:cap(f.Nums)])
+		if want, _ := plainFront(line); !sameFront(again, want) {
+			t.Errorf("%q: memory is shared by two answers", line)
+		}
+	}
+	lines := append(slices.Clone(sessionLines), "spare")
+	impl.FrontSession(lines[:len(sessionLines)])
+	if !slices.Equal(lines[:len(sessionLines)], sessionLines) || lines[len(sessionLines)] != "spare" {
+		t.Errorf("lines were written into: %q", lines)
+	}
+}
